@@ -86,6 +86,11 @@ func (r *Reader) Next() (byte, bool) {
 	return b, ok
 }
 
+// Skip reads n bytes, or as many as there are.
+func (r *Reader) Skip(n int) {
+	r.at += min(max(n, 0), len(r.text)-r.at)
+}
+
 // Take reads the first of texts that stands next; false, if none does.
 func (r *Reader) Take(texts ...string) (string, bool) {
 	for _, s := range texts {

@@ -68,3 +68,15 @@ func TestNumberThatIsNone(t *testing.T) {
 		}
 	}
 }
+
+func TestSkip(t *testing.T) {
+	r := scan.Of("abcd")
+	for i, c := range []struct {
+		n    int
+		rest string
+	}{{2, "cd"}, {0, "cd"}, {-1, "cd"}, {1, "d"}, {5, ""}, {1, ""}} {
+		if r.Skip(c.n); r.Rest() != c.rest {
+			t.Error(i, r.Rest())
+		}
+	}
+}
