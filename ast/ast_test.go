@@ -27,6 +27,12 @@ func among(s string, l []string) bool {
 	return false
 }
 
+func TestKinds(t *testing.T) {
+	if ast.Line != 1 || ast.Logfmt != 2 || ast.Label != 3 || ast.Compare != 4 || ast.Number != 0 || ast.Duration != 1 || ast.Bytes != 2 {
+		t.Error("turned")
+	}
+}
+
 func TestLiteral(t *testing.T) {
 	for i, c := range []struct {
 		num  int64

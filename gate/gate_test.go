@@ -464,3 +464,28 @@ func TestEdges(t *testing.T) {
 		r.Cursor = answers(t, g, r, l[2-i]).Cursor
 	}
 }
+
+// TestAny (P1, T3) hands in requests that may be anything: each has an answer, or one error.
+func TestAny(t *testing.T) {
+	rnd := rand.New(rand.NewSource(24))
+	g, _ := newGate(t, store.New([]entry.Entry{of(1, "a", "x"), of(2, "b", "")}, store.Reply{}, store.Reply{Fail: true}))
+	numbers := []int64{0, 1, 2, 64, 65, -1, 100, math.MinInt64, math.MaxInt64}
+	number := func() int64 { return numbers[rnd.Intn(len(numbers))] }
+	texts := []string{"", "root", "anna", "none", `{app=~".*"}`, `{app="a"} | logfmt | n > 1`, "{", "\xff", "c1:"}
+	text := func() string { return texts[rnd.Intn(len(texts))] }
+	last := ""
+	for range 20000 {
+		r := gate.Request{Tenant: text(), Query: text(), From: number(), To: number(), Asc: rnd.Intn(2) == 0, Limit: int(number()), Width: number(), Page: int(number()), Cursor: text()}
+		if rnd.Intn(2) == 0 {
+			r.Cursor = last
+		}
+		a := g.Handle(r)
+		if a.Code < api.OK || a.Code > api.ErrForm || a.Code != api.OK && (len(a.L) > 0 || a.Cursor != "") || len(a.L) > gate.MaxPage || len(a.L) > max(r.Page, 0) {
+			t.Fatalf("%+v: %+v", r, a)
+		}
+		last = a.Cursor
+		if back, ok := gate.Read(gate.Tell(a)); !same(back, a) || !ok {
+			t.Fatalf("%+v", a)
+		}
+	}
+}

@@ -11,6 +11,12 @@ import (
 
 type token = lex.Token
 
+func TestKinds(t *testing.T) {
+	if lex.Name != 1 || lex.Text != 2 || lex.Value != 3 || lex.Op != 4 {
+		t.Error("turned")
+	}
+}
+
 // TestOps (P7.1) has the ops in their order, in a list of one's own.
 func TestOps(t *testing.T) {
 	want := []string{"=~", "!~", "!=", "==", ">=", "<=", "|=", "|~", "{", "}", ",", "=", ">", "<", "|"}

@@ -1,6 +1,7 @@
 package nfa_test
 
 import (
+	"math"
 	"math/rand"
 	"strings"
 	"testing"
@@ -295,6 +296,11 @@ func TestFewStates(t *testing.T) {
 	if e != api.OK || p.Size() != 200 || !p.Whole("") || !p.Whole(strings.Repeat("a", 100)) || p.Whole(strings.Repeat("a", 101)) {
 		t.Error(e)
 	}
+	both := rex.Node{Kind: rex.Alt, Kids: []rex.Node{blank, blank}}
+	n = repeat(20, 20, repeat(2, 2, rex.Node{Kind: rex.Alt, Kids: []rex.Node{repeat(20, 20, blank), {Kind: rex.Cat, Kids: []rex.Node{blank, one("a")}}, both}}))
+	if p, e := nfa.Compile(n); e != api.OK || !p.Whole("") || !p.Whole(strings.Repeat("a", 40)) || p.Whole(strings.Repeat("a", 41)) {
+		t.Error(e)
+	}
 	deep := one("a")
 	for range 99000 {
 		deep = repeat(1, 1, deep)
@@ -316,6 +322,36 @@ func TestLinear(t *testing.T) {
 		p := of(t, s)
 		if p.Whole(text) != want || p.Find(text) != want {
 			t.Error(s)
+		}
+	}
+}
+
+// TestAnyNode (P1) compiles nodes that may be anything: what is right, and not too large, has a program.
+func TestAnyNode(t *testing.T) {
+	rnd := rand.New(rand.NewSource(6))
+	numbers := []int{0, 0, 0, 1, 2, 20, 21, -1, -2, math.MinInt, math.MaxInt}
+	var any func(deep int) rex.Node
+	any = func(deep int) rex.Node {
+		n := rex.Node{Kind: rnd.Intn(9) - 1, Min: numbers[rnd.Intn(len(numbers))], Max: numbers[rnd.Intn(len(numbers))]}
+		if rnd.Intn(2) == 0 {
+			n.Set = n.Set.With(byte(rnd.Intn(256)), byte(rnd.Intn(256)))
+		}
+		for range rnd.Intn(deep + 1) {
+			n.Kids = append(n.Kids, any(deep-1))
+		}
+		return n
+	}
+	for range 20000 {
+		n := any(3)
+		p, e := nfa.Compile(n)
+		want := api.OK
+		if !rex.Right(n) {
+			want = api.ErrArg
+		} else if rex.Size(n) > api.MaxRex {
+			want = api.ErrBig
+		}
+		if e != want || (p == nil) != (e != api.OK) {
+			t.Fatalf("%+v: %d, not %d", n, e, want)
 		}
 	}
 }

@@ -148,6 +148,8 @@ func TestCut(t *testing.T) {
 		{"a==b", []string{"==", "="}, "a", "==", "b"},
 		{"a!b=c", []string{"=", "!"}, "a", "!", "b=c"},
 		{"abc", []string{"bc", "b", "a"}, "", "a", "bc"},
+		{"abc", []string{"a", "b"}, "", "a", "bc"},
+		{"abc", []string{"b", "a"}, "", "a", "bc"},
 		{"abc", []string{"", "c"}, "ab", "c", ""},
 		{"abc", []string{"", "x"}, "abc", "", ""},
 		{"abc", []string{"abcd"}, "abc", "", ""},

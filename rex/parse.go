@@ -41,16 +41,15 @@ func (p *parser) fail(at int) Node {
 }
 
 func (p *parser) expression() Node {
-	first := p.sequence()
-	if b, ok := p.Peek(); !ok || b != '|' || p.faulty {
-		return first
-	}
-	l := []Node{first}
+	l := []Node{p.sequence()}
 	for !p.faulty {
 		if _, ok := p.Take("|"); !ok {
 			break
 		}
 		l = append(l, p.sequence())
+	}
+	if len(l) == 1 {
+		return l[0]
 	}
 	return altOf(l...)
 }
