@@ -33,6 +33,7 @@ func TestKinds(t *testing.T) {
 	}
 }
 
+// TestLiteral (P8.1) has numbers of all units, and of none.
 func TestLiteral(t *testing.T) {
 	for i, c := range []struct {
 		num  int64
@@ -70,6 +71,7 @@ func TestRightMatcher(t *testing.T) {
 	}
 }
 
+// TestRightStage (P8.1, P8.2) has stages right, and wrong by one thing.
 func TestRightStage(t *testing.T) {
 	for _, op := range allOps {
 		if got := ast.RightStage(ast.Stage{Kind: ast.Line, Op: op, Value: "b"}); got != among(op, lineOps) {
@@ -116,6 +118,7 @@ func query(matchers, stages int) ast.Query {
 	return q
 }
 
+// TestRight (P8.2) has as many as may be, and more.
 func TestRight(t *testing.T) {
 	for _, c := range []struct {
 		matchers, stages int
@@ -137,6 +140,7 @@ func TestRight(t *testing.T) {
 	}
 }
 
+// TestPut (P8.3) has each kind, right or not.
 func TestPut(t *testing.T) {
 	if got := ast.PutMatcher(ast.Matcher{"a", "!~", "x\"\n"}); got != `a!~"x\"\n"` {
 		t.Error(got)

@@ -36,6 +36,7 @@ func TestSum(t *testing.T) {
 	}
 }
 
+// TestDigest (P19.1) has parts that would be others, were they not in quotes.
 func TestDigest(t *testing.T) {
 	for want, parts := range map[string][]string{"": nil, `""`: {""}, `"a"`: {"a"}, `"a","b"`: {"a", "b"}, `"a\",\"b"`: {`a","b`}, `"","\n",""`: {"", "\n", ""}} {
 		if got := cursor.Digest(parts...); got != cursor.Sum(want) {
@@ -44,6 +45,7 @@ func TestDigest(t *testing.T) {
 	}
 }
 
+// TestHex (P19.1) has digits at all places.
 func TestHex(t *testing.T) {
 	for n, want := range map[uint64]string{0: "0000000000000000", 1: "0000000000000001", 0xabcdef: "0000000000abcdef", 0x123456789abcdef0: "123456789abcdef0", math.MaxUint64: "ffffffffffffffff", 1 << 63: "8000000000000000"} {
 		if got := cursor.Hex(n); got != want {
@@ -52,6 +54,7 @@ func TestHex(t *testing.T) {
 	}
 }
 
+// TestPut (P19.2) has cursors right, and wrong by one thing.
 func TestPut(t *testing.T) {
 	c := cursor.Cursor{Digest: 0xab, Lines: 3, Bytes: 40, Last: of(-7, "a:b", "x\n")}
 	body := `c1:00000000000000ab:3:40:-7{app="a:b"}"x\n":`

@@ -23,6 +23,7 @@ func of(ts int64, line string, l ...string) entry.Entry {
 	return entry.Entry{TS: ts, Labels: set(l...), Line: line}
 }
 
+// TestRight (P13.1) has entries right, and wrong by one thing.
 func TestRight(t *testing.T) {
 	long := strings.Repeat("v", api.MaxText)
 	for i, e := range []entry.Entry{{}, of(math.MinInt64, long, "a", "b"), of(-1, "\x00\n", "a", "", "b", long)} {
@@ -68,6 +69,7 @@ func TestOrder(t *testing.T) {
 	}
 }
 
+// TestCost (P13.1) counts bytes of the line alone.
 func TestCost(t *testing.T) {
 	for line, want := range map[string]int64{"": 0, "a": 1, "é\n": 3, strings.Repeat("x", 1000): 1000} {
 		if got := entry.Cost(of(5, line, "name", "value")); got != want {
@@ -76,6 +78,7 @@ func TestCost(t *testing.T) {
 	}
 }
 
+// TestSorted (P13.1) has lists of both orders, and of none.
 func TestSorted(t *testing.T) {
 	l := rising()
 	falling := make([]entry.Entry, len(l))
@@ -96,6 +99,7 @@ func TestSorted(t *testing.T) {
 	}
 }
 
+// TestPut (P13.2) has entries, right or not.
 func TestPut(t *testing.T) {
 	for want, e := range map[string]entry.Entry{
 		`0{}""`: {}, `-5{a="b"}"x"`: of(-5, "x", "a", "b"), `9223372036854775807{b="",a="\n"}"\"\xff"`: of(math.MaxInt64, "\"\xff", "b", "", "a", "\n"),
@@ -106,6 +110,7 @@ func TestPut(t *testing.T) {
 	}
 }
 
+// TestParse (P13.2) has what is no entry.
 func TestParse(t *testing.T) {
 	for _, s := range []string{
 		"", "0", "0{}", "{}\"\"", `{}"x"`, ` 0{}""`, `0 {}""`, `0{} ""`, `00{}""`, `-0{}""`, `+1{}""`, `0x1{}""`, `9223372036854775808{}""`, `-{}""`, `--1{}""`, `0{}x`, `0{}"x`, `0{}"\x41"`, `0{"a"}""`, `0{a="1",a="2"}""`, `0{b="1",a="2"}""`, `0{a="1"""`,

@@ -65,6 +65,7 @@ func fetches(t *testing.T, f *fan.Fan, a store.Ask, want []entry.Entry, wantMore
 	}
 }
 
+// TestNew (P20.1) has replicas that are too few, too many, or none.
 func TestNew(t *testing.T) {
 	r := store.New(list(1))
 	for i, l := range [][]*store.Replica{nil, {nil}, {r, nil}, {nil, r}, {r, r, r, r, r}} {
@@ -142,6 +143,7 @@ func TestFetch(t *testing.T) {
 	}
 }
 
+// TestWrong (P20.2) has what may not be asked, and replicas that all fail.
 func TestWrong(t *testing.T) {
 	r := store.New(list(1), store.Reply{Fail: true})
 	f := newFan(t, r, r)

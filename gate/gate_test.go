@@ -97,6 +97,7 @@ func refuses(t *testing.T, g *gate.Gate, r gate.Request, code api.Errno, at int)
 	}
 }
 
+// TestNew (P21.1) has what is nil.
 func TestNew(t *testing.T) {
 	table, _ := tenant.New()
 	f, _ := fan.New(store.New(nil))

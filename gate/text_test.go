@@ -12,6 +12,7 @@ import (
 	"archivist/store"
 )
 
+// TestPut (P21.3) has requests, right or not.
 func TestPut(t *testing.T) {
 	r := gate.Request{Tenant: "a b", Query: `{a="b"}`, From: -5, To: math.MaxInt64, Limit: -1, Width: 10, Page: 3, Cursor: "c\n"}
 	if got := gate.Put(r); got != `"a b" "{a=\"b\"}" -5 9223372036854775807 desc -1 10 3 "c\n"` {
@@ -53,6 +54,7 @@ func same(a, b gate.Answer) bool {
 	return a.Code == b.Code && a.At == b.At && told(a.L) == told(b.L) && a.Cursor == b.Cursor
 }
 
+// TestTell (P21.3) tells answers, and reads them.
 func TestTell(t *testing.T) {
 	for want, a := range map[string]gate.Answer{
 		`0 0 ""`: {}, `8 0 ""`: {Code: api.ErrForm}, `2 13 "c\n"`: {Code: api.ErrParse, At: 13, Cursor: "c\n"}, `-1 -5 1{app="a"}"x" 2{app="b"}"" ""`: {Code: -1, At: -5, L: []entry.Entry{of(1, "a", "x"), of(2, "b", "")}},
@@ -66,6 +68,7 @@ func TestTell(t *testing.T) {
 	}
 }
 
+// TestRead (P21.3) has what is no answer.
 func TestRead(t *testing.T) {
 	var a gate.Answer
 	for range gate.MaxPage {

@@ -28,6 +28,7 @@ func peeks(t *testing.T, h *heap.Heap[int], want int, wantOK bool, n int) {
 	}
 }
 
+// TestHeap (P15.1, P15.2) pushes, peeks and pops.
 func TestHeap(t *testing.T) {
 	h := heap.New(less)
 	peeks(t, h, 0, false, 0)
@@ -55,6 +56,7 @@ func TestHeap(t *testing.T) {
 	peeks(t, h, 1, true, 2)
 }
 
+// TestNew (P15.1) has things at its beginning.
 func TestNew(t *testing.T) {
 	h := heap.New(func(a, b string) bool { return a > b }, "b", "a", "c")
 	if got, ok := h.Peek(); got != "c" || !ok || h.Len() != 3 {

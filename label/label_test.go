@@ -24,6 +24,7 @@ func same(t *testing.T, what string, got, want label.Set) {
 	}
 }
 
+// TestName (P6.1) has names, and what is none.
 func TestName(t *testing.T) {
 	name32 := "_" + strings.Repeat("a", 31)
 	for _, s := range []string{"a", "Z", "_", "a1", "_9", "aZ_09", "logfmt", name32} {
@@ -47,6 +48,7 @@ func many(n int) label.Set {
 	return s
 }
 
+// TestRight (P6.1) has sets right, and wrong by one thing.
 func TestRight(t *testing.T) {
 	long := strings.Repeat("v", api.MaxText)
 	for i, s := range []label.Set{nil, {}, {{"a", ""}}, {{"a", long}}, {{"A", "1"}, {"_", "2"}, {"a", "3"}, {"a1", "4"}}, many(api.MaxLabels)} {
@@ -61,6 +63,7 @@ func TestRight(t *testing.T) {
 	}
 }
 
+// TestOf (P6.1) has pairs in any order, some of no name.
 func TestOf(t *testing.T) {
 	same(t, "nothing", label.Of(), nil)
 	same(t, "no names", label.Of(pair{"1", "a"}, pair{"", "b"}), nil)
@@ -70,6 +73,7 @@ func TestOf(t *testing.T) {
 	same(t, "a long value", label.Of(pair{"a", long}), label.Set{{"a", long}})
 }
 
+// TestGet (P6.1) has names that are there, twice, and not.
 func TestGet(t *testing.T) {
 	s := label.Set{{"b", "1"}, {"a", "2"}, {"b", "3"}, {"", "4"}, {"c", ""}}
 	for name, want := range map[string]string{"b": "1", "a": "2", "": "4", "c": ""} {
@@ -87,6 +91,7 @@ func TestGet(t *testing.T) {
 	}
 }
 
+// TestWith (P6.1) has pairs that come to others.
 func TestWith(t *testing.T) {
 	same(t, "nothing", label.Set(nil).With(), nil)
 	same(t, "some", label.Set{{"b", "1"}, {"a", "2"}}.With(pair{"b", "3"}, pair{"c", "4"}, pair{"?", "5"}), label.Set{{"a", "2"}, {"b", "3"}, {"c", "4"}})
@@ -105,6 +110,7 @@ func TestUntouched(t *testing.T) {
 	same(t, "of", of, label.Set{{"a", "2"}, {"b", "1"}})
 }
 
+// TestText (P6.2) has sets, right or not.
 func TestText(t *testing.T) {
 	for i, c := range []struct {
 		s    label.Set
@@ -118,6 +124,7 @@ func TestText(t *testing.T) {
 	}
 }
 
+// TestParse (P6.2) has sets, and what is none.
 func TestParse(t *testing.T) {
 	for s, want := range map[string]label.Set{
 		"{}": nil, "{}}": nil, `{a="b"}`: {{"a", "b"}}, `{a="b"},{c="d"}`: {{"a", "b"}}, `{A="",_b="}\"",c9="\x00"} x`: {{"A", ""}, {"_b", "}\""}, {"c9", "\x00"}},

@@ -36,6 +36,7 @@ func TestOps(t *testing.T) {
 	}
 }
 
+// TestAll (P7.1, P7.2) has words of all kinds.
 func TestAll(t *testing.T) {
 	name32 := strings.Repeat("n", 32)
 	for s, want := range map[string][]token{
@@ -84,6 +85,7 @@ func TestNoWords(t *testing.T) {
 	}
 }
 
+// TestBig (P7.2) has texts of as many bytes as may be, and of more.
 func TestBig(t *testing.T) {
 	for i, c := range []struct {
 		s  string

@@ -21,6 +21,7 @@ func pairs(l ...string) []label.Pair {
 	return out
 }
 
+// TestAll (P10.1, P10.2) has lines of any form.
 func TestAll(t *testing.T) {
 	long := strings.Repeat("v", api.MaxText)
 	for s, want := range map[string][]label.Pair{
@@ -71,6 +72,7 @@ func TestMost(t *testing.T) {
 	}
 }
 
+// TestOf (P10.2) has names that stand twice.
 func TestOf(t *testing.T) {
 	for s, want := range map[string][]label.Pair{
 		"": nil, "b=1 a=2 b=3 a=": pairs("a", "2", "b", "1"), "a a=1": pairs("a", ""), "z=1 1=2 A=3": pairs("A", "3", "z", "1"),
@@ -81,6 +83,7 @@ func TestOf(t *testing.T) {
 	}
 }
 
+// TestPut (P10.3) has pairs of any number.
 func TestPut(t *testing.T) {
 	if got := logfmt.Put(); got != "" {
 		t.Error(got)

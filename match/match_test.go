@@ -55,6 +55,7 @@ func TestOne(t *testing.T) {
 	}
 }
 
+// TestWrong (P11.1, P11.2, P11.3) has what is not right.
 func TestWrong(t *testing.T) {
 	for i, m := range []ast.Matcher{{}, matcher("1", "=", "x"), matcher("a", "|=", "x"), matcher("a", "=~", "("), matcher("a", "!~", "(a{20}){20}"), matcher("a", "=", strings.Repeat("v", 257)), matcher("a", "", "x")} {
 		if o, e := match.Of(m); o != nil || e != api.ErrArg {

@@ -23,6 +23,7 @@ func told(l []entry.Entry) string {
 	return s
 }
 
+// TestAll (P16.1) has lists sorted, and not.
 func TestAll(t *testing.T) {
 	a, b, c, d := of(1, "a", ""), of(1, "b", ""), of(2, "a", "x"), of(2, "a", "y")
 	type lists = [][]entry.Entry
@@ -47,6 +48,7 @@ func TestAll(t *testing.T) {
 	}
 }
 
+// TestFirst (P16.2) has the first at each place.
 func TestFirst(t *testing.T) {
 	a, b, c := of(1, "a", ""), of(1, "b", ""), of(2, "a", "")
 	if e, ok := merge.First(true); !entry.Same(e, entry.Entry{}) || ok {
@@ -63,6 +65,7 @@ func TestFirst(t *testing.T) {
 	}
 }
 
+// TestUpto (P16.2) has ends among the entries, and beyond.
 func TestUpto(t *testing.T) {
 	a, b, c := of(1, "a", ""), of(1, "b", ""), of(2, "a", "")
 	l := []entry.Entry{c, a, b, a}

@@ -47,6 +47,7 @@ func query(t *testing.T, s string) ast.Query {
 	return q
 }
 
+// TestUnion (P22.1) has lists in any order, of entries that are not right too.
 func TestUnion(t *testing.T) {
 	a, b, c := of(1, "a", ""), of(1, "b", ""), of(2, "a", "x")
 	wrong := of(1, "a", strings.Repeat("x", 257))
@@ -65,6 +66,7 @@ func TestUnion(t *testing.T) {
 	is(t, "many", model.Union(true, many), many...)
 }
 
+// TestWithin (P22.1) has entries at, and beside, the ends.
 func TestWithin(t *testing.T) {
 	l := []entry.Entry{of(5, "a", ""), of(1, "a", ""), of(9, "a", ""), of(5, "a", "")}
 	is(t, "some", model.Within(2, 9, l...), l[0], l[3])
@@ -77,6 +79,7 @@ func TestWithin(t *testing.T) {
 	is(t, "of none", model.Within(0, 9))
 }
 
+// TestThrough (P22.1) has queries right, and wrong.
 func TestThrough(t *testing.T) {
 	l := []entry.Entry{of(2, "a", "n=5"), of(1, "b", "n=5"), of(1, "a", "n=6"), of(0, "a", "n=5")}
 	is(t, "some", model.Through(query(t, `{app="a"} | logfmt | n == 5`), l...), l[0], l[3])
@@ -89,6 +92,7 @@ func TestThrough(t *testing.T) {
 	}
 }
 
+// TestCut (P22.1) has quotas that end at each place.
 func TestCut(t *testing.T) {
 	l := []entry.Entry{of(1, "a", "xx"), of(2, "a", ""), of(3, "a", "yyy"), of(4, "a", "z")}
 	for i, c := range []struct {
@@ -108,6 +112,7 @@ func policy() tenant.Policy {
 	return tenant.Policy{Name: "anna", Must: []ast.Matcher{{Name: "app", Op: "!=", Value: "b"}}, MaxLines: 30, MaxBytes: 60}
 }
 
+// TestAnswer (P22.2) has all of it together.
 func TestAnswer(t *testing.T) {
 	lists := [][]entry.Entry{{of(3, "a", "x"), of(1, "a", "x"), of(2, "b", "x")}, {of(2, "c", "xy"), of(1, "a", "x"), of(4, "a", "y"), of(9, "a", "x")}}
 	q := query(t, `{app=~".+"} |= "x"`)
@@ -138,6 +143,7 @@ func TestAnswer(t *testing.T) {
 	}
 }
 
+// TestAnswerErrors (P22.2) has what is not right, and what is too big.
 func TestAnswerErrors(t *testing.T) {
 	l := []entry.Entry{of(1, "a", "x")}
 	q := query(t, `{app="a"}`)

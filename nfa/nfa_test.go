@@ -98,6 +98,7 @@ func TestFind(t *testing.T) {
 	}
 }
 
+// TestOf (P5.1) has what is no expression, and what is too large.
 func TestOf(t *testing.T) {
 	long := strings.Repeat("a", api.MaxText+1)
 	for i, c := range []struct {
@@ -127,6 +128,7 @@ func repeat(low, high int, kid rex.Node) rex.Node {
 	return rex.Node{Kind: rex.Repeat, Min: low, Max: high, Kids: []rex.Node{kid}}
 }
 
+// TestCompile (P5.1) has nodes that are not right, and ones that are too large.
 func TestCompile(t *testing.T) {
 	a := one("a")
 	for i, n := range []rex.Node{{Kind: 7}, {Kind: rex.One}, repeat(0, 21, a), repeat(0, 0, rex.Node{Kind: rex.Cat}), {Kind: rex.Cat, Kids: []rex.Node{a}}, repeat(0, -1, repeat(20, 20, repeat(20, 20, repeat(2, 1, a))))} {

@@ -99,6 +99,7 @@ func TestFirstOnes(t *testing.T) {
 	}
 }
 
+// TestLeast (P2.1) has the least at each place.
 func TestLeast(t *testing.T) {
 	for i, c := range []struct {
 		first int64

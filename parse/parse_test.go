@@ -12,6 +12,7 @@ import (
 	"archivist/quote"
 )
 
+// TestValue (P9.1) has numbers of all units, and what is none.
 func TestValue(t *testing.T) {
 	for s, want := range map[string]struct {
 		n    int64
@@ -36,6 +37,7 @@ func matcher(name, op, value string) ast.Matcher {
 	return ast.Matcher{Name: name, Op: op, Value: value}
 }
 
+// TestParse (P9.2, P9.3) has queries of all forms.
 func TestParse(t *testing.T) {
 	a := []ast.Matcher{matcher("a", "=", "b")}
 	for s, want := range map[string]ast.Query{
@@ -139,6 +141,7 @@ func TestMany(t *testing.T) {
 	}
 }
 
+// TestBig (P9.3) has queries of as many bytes as may be, and of more.
 func TestBig(t *testing.T) {
 	q := `{a="b"}` + strings.Repeat(" ", 1024)
 	if got, at, e := parse.Parse(q[:1024]); len(got.Matchers) != 1 || at != 1024 || e != api.OK {

@@ -38,6 +38,7 @@ func of(t *testing.T, s string) *pipe.Pipe {
 	return p
 }
 
+// TestMeasure (P12.1) has values of all units, and of none.
 func TestMeasure(t *testing.T) {
 	for i, c := range []struct {
 		value string
@@ -56,6 +57,7 @@ func TestMeasure(t *testing.T) {
 	}
 }
 
+// TestOf (P12.2) has queries wrong by one thing.
 func TestOf(t *testing.T) {
 	right := query(t, `{a="b"} | logfmt`)
 	for i, turn := range []func(q *ast.Query){
@@ -70,6 +72,7 @@ func TestOf(t *testing.T) {
 	}
 }
 
+// TestSelects (P12.2) asks the matchers alone.
 func TestSelects(t *testing.T) {
 	p := of(t, `{a="b",c!="d"} |= "x"`)
 	for i, c := range []struct {

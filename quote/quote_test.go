@@ -31,6 +31,7 @@ func TestPutBytes(t *testing.T) {
 	}
 }
 
+// TestPut (P1.1) has whole texts.
 func TestPut(t *testing.T) {
 	for s, want := range map[string]string{
 		"":         `""`,
@@ -107,6 +108,7 @@ func TestOnePut(t *testing.T) {
 	try(`"`, 5)
 }
 
+// TestJoin (P1.3) has parts of any number.
 func TestJoin(t *testing.T) {
 	if got := quote.Join(", "); got != "" {
 		t.Errorf("of nothing: %q", got)
@@ -122,6 +124,7 @@ func TestJoin(t *testing.T) {
 	}
 }
 
+// TestAmong (P1.3) has texts that are there once, twice, and never.
 func TestAmong(t *testing.T) {
 	for i, c := range []struct {
 		s    string
@@ -137,6 +140,7 @@ func TestAmong(t *testing.T) {
 	}
 }
 
+// TestCut (P1.3) has places at which several may begin.
 func TestCut(t *testing.T) {
 	for i, c := range []struct {
 		s                  string

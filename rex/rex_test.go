@@ -131,6 +131,7 @@ func forms() []struct {
 	}
 }
 
+// TestForms (P4.2, P4.3, P4.5) reads all forms, and puts them.
 func TestForms(t *testing.T) {
 	for _, f := range forms() {
 		n, at, e := rex.Parse(f.s)

@@ -16,6 +16,7 @@ const (
 	bottom = int64(math.MinInt64)
 )
 
+// TestMany (P17.1) has ranges that are split, and ones that are none.
 func TestMany(t *testing.T) {
 	for i, c := range []struct {
 		from, to, width int64
@@ -37,6 +38,7 @@ func TestMany(t *testing.T) {
 	}
 }
 
+// TestAll (P17.1) has pieces, both ways.
 func TestAll(t *testing.T) {
 	for i, c := range []struct {
 		from, to, width int64
@@ -91,6 +93,7 @@ func TestTogether(t *testing.T) {
 	}
 }
 
+// TestBehind (P17.2) has times at, and beside, the ends of pieces.
 func TestBehind(t *testing.T) {
 	l := []split.Span{{0, 4}, {4, 8}, {8, 10}}
 	falling := []split.Span{{8, 10}, {4, 8}, {0, 4}}

@@ -45,6 +45,7 @@ func asked(t *testing.T, r *store.Replica, a store.Ask, m *match.All, want []ent
 	}
 }
 
+// TestNew (P14.1) has entries that are not right, that stand twice, and too many.
 func TestNew(t *testing.T) {
 	all := every(t, "=~", ".*")
 	wrong := entry.Entry{TS: 1, Line: strings.Repeat("x", api.MaxText+1)}

@@ -26,6 +26,7 @@ func many(n int) []ast.Matcher {
 	return l
 }
 
+// TestRight (P18.1) has policies right, and wrong by one thing.
 func TestRight(t *testing.T) {
 	for i, p := range []tenant.Policy{{Name: "a"}, {Name: strings.Repeat("n", 32), Must: many(8), MaxLines: math.MaxInt, MaxBytes: math.MaxInt64}, {Name: "a", Must: []ast.Matcher{matcher("a", "=~", "x"), matcher("a", "=~", "x")}}} {
 		if !tenant.Right(p) {
@@ -48,6 +49,7 @@ func same(a, b tenant.Policy) bool {
 	return a.Name == b.Name && slices.Equal(a.Must, b.Must) && a.MaxLines == b.MaxLines && a.MaxBytes == b.MaxBytes
 }
 
+// TestTable (P18.1) has names that are there, and not.
 func TestTable(t *testing.T) {
 	b := tenant.Policy{Name: "b", Must: many(2), MaxLines: 5, MaxBytes: 7}
 	table, e := tenant.New(b, tenant.Policy{Name: "_"}, tenant.Policy{Name: "a"}, tenant.Policy{Name: "B"}, tenant.Policy{Name: "a1"})
@@ -90,6 +92,7 @@ func TestNotShared(t *testing.T) {
 	}
 }
 
+// TestEnforce (P18.2) has matchers that stand there already, and too many.
 func TestEnforce(t *testing.T) {
 	x, y, z := matcher("a", "=", "1"), matcher("a", "!=", "1"), matcher("b", "=~", "1")
 	stages := []ast.Stage{{Kind: ast.Logfmt}, {Kind: ast.Line, Op: "|=", Value: "x"}}
@@ -125,6 +128,7 @@ func TestEnforceUntouched(t *testing.T) {
 	}
 }
 
+// TestMay (P18.3) has limits of any size.
 func TestMay(t *testing.T) {
 	for i, c := range []struct {
 		p     tenant.Policy
@@ -139,6 +143,7 @@ func TestMay(t *testing.T) {
 	}
 }
 
+// TestTake (P18.3) has quotas that are enough, and not.
 func TestTake(t *testing.T) {
 	line := entry.Entry{TS: 5, Labels: label.Set{{Name: "a", Value: "b"}}, Line: "abc"}
 	for i, c := range []struct {

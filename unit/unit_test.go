@@ -10,6 +10,7 @@ import (
 
 const top = int64(math.MaxInt64)
 
+// TestDuration (P3.1) has durations.
 func TestDuration(t *testing.T) {
 	for s, want := range map[string]int64{
 		"1h": 3600000000000, "1m": 60000000000, "1s": 1000000000, "1ms": 1000000, "1us": 1000, "1ns": 1,
@@ -37,6 +38,7 @@ func TestNoDuration(t *testing.T) {
 	}
 }
 
+// TestSpan (P3.2) has numbers, and what is below 0.
 func TestSpan(t *testing.T) {
 	for n, want := range map[int64]string{
 		0: "0s", 1: "1ns", 999: "999ns", 1000: "1us", 1001: "1us1ns", 1000000: "1ms", 1500000000: "1s500ms", 59000000000: "59s",
@@ -53,6 +55,7 @@ func TestSpan(t *testing.T) {
 	}
 }
 
+// TestBytes (P3.3) has sizes, and what is none.
 func TestBytes(t *testing.T) {
 	for s, want := range map[string]int64{
 		"0B": 0, "0GB": 0, "1B": 1, "1KB": 1024, "1MB": 1048576, "1GB": 1073741824, "1024B": 1024, "3000KB": 3072000,
@@ -72,6 +75,7 @@ func TestBytes(t *testing.T) {
 	}
 }
 
+// TestSize (P3.3) has numbers, and what is below 0.
 func TestSize(t *testing.T) {
 	for n, want := range map[int64]string{
 		0: "0B", 1: "1B", 1023: "1023B", 1024: "1KB", 1025: "1025B", 1536: "1536B", 2048: "2KB", 1048576: "1MB", 1049600: "1025KB",
